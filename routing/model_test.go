@@ -35,7 +35,8 @@ type view struct {
 	further          []api.Peer
 }
 
-func (v *view) alone() bool { return v.succ == v.self }
+// alone goes by the number, wherever the succ stands.
+func (v *view) alone() bool { return v.succ.Node == v.self.Node }
 
 func (v *view) fingers() []api.Peer {
 	if v.alone() {

@@ -125,6 +125,8 @@ func TestNewKnowsOneNeighbour(t *testing.T) {
 				mayNotNew(t, one, two, here, api.ErrRouteForm)
 				isAlone(t, made(t, one, one, one), one)
 				isAlone(t, made(t, one, here, one), one)
+				isAlone(t, made(t, one, one, here), one)
+				isAlone(t, made(t, one, here, here), one)
 				made(t, one, two, two)
 			}
 		}
@@ -146,24 +148,28 @@ func isAlone(t *testing.T, x *routing.Table, self api.Peer) {
 	answers(t, x, look(3, self.Node, at(77), 5, 200), found(self.Node, 5, at(77), 5, 200, self))
 }
 
-// A succ with the node's number that stands elsewhere is not the node itself: it is a succ as any other.
-func TestSuccWithItsNumberElsewhere(t *testing.T) {
-	self, pred, succ := peer(7, 50), peer(7, 40), peer(7, 60)
-	x := made(t, self, pred, succ)
-	steps(t, x, at(45), self, true)
-	walks(t, x, at(45), self, true)
-	steps(t, x, at(55), succ, true)
-	steps(t, x, at(60), succ, true)
-	steps(t, x, at(61), succ, false)
-	walks(t, x, at(55), succ, false)
-	answers(t, x, look(3, 7, at(61), 5, 0), look(7, 7, at(61), 5, 1))
-	learns(t, x, 1, peer(3, 70))
-	steps(t, x, at(71), peer(3, 70), false)
-	// Its pred is itself, so all positions are behind that.
-	x = made(t, self, self, succ)
-	for _, p := range positions {
-		steps(t, x, p, self, true)
-		walks(t, x, p, self, true)
+// A node is told by its number: neighbours with its own are the node itself, wherever they stand.
+func TestNeighboursWithItsNumberElsewhere(t *testing.T) {
+	self := peer(7, 50)
+	for _, pred := range append([]api.Pos{self.Pos, next(self.Pos), before(self.Pos)}, positions...) {
+		for _, succ := range append([]api.Pos{self.Pos, next(self.Pos), before(self.Pos)}, positions...) {
+			isAlone(t, made(t, self, api.Peer{Node: 7, Pos: pred}, api.Peer{Node: 7, Pos: succ}), self)
+		}
+	}
+	x := made(t, self, peer(7, 40), peer(7, 60))
+	answers(t, x, look(3, 7, at(61), 5, 0), found(7, 5, at(61), 5, 0, self))
+	answers(t, x, look(3, 7, at(55), 5, 8), found(7, 5, at(55), 5, 8, self))
+}
+
+// The position alone does not make a succ the node itself, if its number is another one.
+func TestSuccWithAnotherNumberAtItsPosition(t *testing.T) {
+	for _, pos := range positions {
+		self, twin := api.Peer{Node: 7, Pos: pos}, api.Peer{Node: 8, Pos: pos}
+		x := made(t, self, api.Peer{Node: 9, Pos: next(pos)}, twin)
+		fingersAre(t, x, twin)
+		steps(t, x, next(pos), twin, true)
+		walks(t, x, next(pos), twin, false)
+		learns(t, x, 1)
 	}
 }
 
@@ -246,7 +252,7 @@ func made(t *testing.T, self, pred, succ api.Peer) *routing.Table {
 	if x == nil || e != api.OK {
 		t.Fatalf("New(%v, %v, %v): %v, %d", self, pred, succ, x, e)
 	}
-	if self == succ {
+	if self.Node == succ.Node {
 		fingersAre(t, x)
 	} else {
 		fingersAre(t, x, succ)
